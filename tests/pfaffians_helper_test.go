@@ -250,6 +250,11 @@ func sampleTables() [][][]int {
 
 // badTables returns lists of lists that are no tables, by what is wrong with them.
 func badTables() map[string][][]int {
+	return badSquares(termMax)
+}
+
+// badSquares returns lists of lists that are not 1 to 6 rows of as many numbers up to a limit in size, by what is wrong with them.
+func badSquares(limit int) map[string][][]int {
 	const far, least = 1 << 62, -1 << 63
 	zeros := func(rows, columns int) [][]int {
 		t := make([][]int, rows)
@@ -282,16 +287,16 @@ func badTables() map[string][][]int {
 		"a nil last row":                     {{0, 0}, nil},
 		"rows with as many numbers together": {{0, 0, 0}, {0}},
 		"the steps of a stair":               {{0}, {1, 0}, {1, 1, 0}},
-		"a skew one beyond the limit":        {{0, termMax + 1}, {-termMax - 1, 0}},
-		"an even one beyond the limit":       {{0, termMax + 1}, {termMax + 1, 0}},
-		"an even one below the limit":        {{0, -termMax - 1}, {-termMax - 1, 0}},
+		"a skew one beyond the limit":        {{0, limit + 1}, {-limit - 1, 0}},
+		"an even one beyond the limit":       {{0, limit + 1}, {limit + 1, 0}},
+		"an even one below the limit":        {{0, -limit - 1}, {-limit - 1, 0}},
 		// The least number is its own one with the sign turned.
 		"the least number across":          {{0, least}, {least, 0}},
 		"the least number of one row":      {{least}},
 		"the numbers of a 0 and far bits":  {{1 << 32, 1 << 40}, {-1 << 40, far}},
 		"the greatest number and one more": {{0, 1<<63 - 1}, {-1<<63 + 1, 0}},
 	}
-	for name, number := range map[string]int{"31": termMax + 1, "-31": -termMax - 1, "a far number": far, "the least number": least} {
+	for name, number := range map[string]int{"one more than the limit": limit + 1, "one less than the limit with the sign turned": -limit - 1, "a far number": far, "the least number": least} {
 		bad[name+" alone"] = [][]int{{number}}
 		bad[name+" first"] = withNumber(zeros(6, 6), 0, 0, number)
 		bad[name+" in the first row, last"] = withNumber(zeros(6, 6), 0, 5, number)
